@@ -5,6 +5,7 @@ import (
 
 	"portage/api"
 	"portage/huff"
+	"portage/layout"
 )
 
 // The symbols that repeat a length; those below are lengths themselves.
@@ -13,10 +14,6 @@ const (
 	repeatNone = 17
 	repeatMore = 18
 )
-
-// row is the order in which a dynamic block tells the lengths of the codes by
-// which it tells all others.
-var row = [19]int{16, 17, 18, 0, 8, 7, 9, 6, 10, 5, 11, 4, 12, 3, 13, 2, 14, 1, 15}
 
 // finder has the first code of each length, and the symbols of the codes from
 // that one on.
@@ -86,15 +83,15 @@ func (in *stream) symbol(f *finder) (int, api.Errno) {
 // lengths reads those of both parts of a dynamic block: of bytes and copies'
 // lengths, and of distances.
 func (in *stream) lengths() ([]int, []int, api.Errno) {
-	bytes, err := in.above(257, 5)
+	bytes, err := in.above(layout.LeastBytes, 5)
 	if err != api.OK {
 		return nil, nil, err
 	}
-	dists, err := in.above(1, 5)
+	dists, err := in.above(layout.LeastDists, 5)
 	if err != api.OK {
 		return nil, nil, err
 	}
-	if bytes > mostBytes || dists > mostDists {
+	if bytes > layout.MostBytes || dists > layout.MostDists {
 		return nil, nil, api.ErrInflateForm
 	}
 	f, err := in.lengthFinder()
@@ -115,10 +112,11 @@ func (in *stream) lengths() ([]int, []int, api.Errno) {
 
 // lengthFinder reads the codes by which all lengths are told.
 func (in *stream) lengthFinder() (*finder, api.Errno) {
-	many, err := in.above(4, 4)
+	many, err := in.above(layout.LeastSmall, 4)
 	if err != api.OK {
 		return nil, err
 	}
+	row := layout.Row()
 	lengths := make([]int, len(row))
 	for i := range many {
 		lengths[row[i]], err = in.number(3)
@@ -179,7 +177,7 @@ func (in *stream) repeated(length int, least int, width int) ([]int, api.Errno) 
 
 // mayTellBytes asks for the end's code too: without it no block would end.
 func mayTellBytes(lengths []int) bool {
-	return huff.Check(lengths) == api.OK && lengths[blockEnd] > 0
+	return huff.Check(lengths) == api.OK && lengths[layout.End] > 0
 }
 
 // mayTellDists lets besides no code at all, and just one of one bit: what a

@@ -268,10 +268,11 @@ func TestLengthsOfCodesAreBound(t *testing.T) {
 	}
 }
 
-// The longest codes that so few bytes, and copies, have.
+// Counts that rise so that codes become long; those of a text's bytes never
+// have 12 bits, as that would take 377 symbols.
 func TestDeepCodes(t *testing.T) {
 	var bytes []api.Token
-	for b, times := range []int{1, 1, 3, 4, 7, 11, 18, 29, 47, 76} {
+	for b, times := range []int{1, 1, 1, 1, 4, 6, 10, 16, 26, 42, 68, 110} {
 		bytes = append(bytes, slices.Repeat([]api.Token{lit(b)}, times)...)
 	}
 	copies := with(unlike(20))
@@ -281,7 +282,7 @@ func TestDeepCodes(t *testing.T) {
 	}
 	first, _ := codeLengths(bytes)
 	_, second := codeLengths(copies)
-	if slices.Max(first) != 10 || slices.Max(second) != 8 {
+	if slices.Max(first) != 11 || slices.Max(second) != 8 {
 		t.Fatalf("the test is wrong: %d and %d bits", slices.Max(first), slices.Max(second))
 	}
 	checkCoded(t, bytes)

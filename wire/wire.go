@@ -1,8 +1,8 @@
-// Package wire holds how numbers stand in texts, for the layers that write
-// them there and those that read them: the lowest byte first.
+// Package wire holds how numbers and pieces stand in texts, for the layers that
+// write them there and those that read them: numbers the lowest byte first.
 package wire
 
-// Maker makes a text, number by number. Its zero value has nothing yet.
+// Maker makes a text, piece by piece. Its zero value has nothing yet.
 type Maker struct {
 	text []byte
 }
@@ -13,6 +13,16 @@ func (m *Maker) Number(value int, width int) {
 		m.text = append(m.text, byte(value))
 		value >>= 8
 	}
+}
+
+// Text puts a text as it is.
+func (m *Maker) Text(s string) {
+	m.text = append(m.text, s...)
+}
+
+// Len tells how many bytes were put.
+func (m *Maker) Len() int {
+	return len(m.text)
 }
 
 // Told tells all that was put.

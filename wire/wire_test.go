@@ -56,3 +56,20 @@ func TestWhatWasToldStays(t *testing.T) {
 		t.Errorf("%q, %q", first, m.Told())
 	}
 }
+
+func TestTextsBetweenNumbers(t *testing.T) {
+	var m wire.Maker
+	if m.Len() != 0 {
+		t.Errorf("%d bytes of nothing", m.Len())
+	}
+	m.Text("PK\x03\x04")
+	m.Number(20, 2)
+	m.Text("")
+	m.Text("\x00\xff\xc3")
+	m.Number(5, 0)
+	m.Number(0x010203, 4)
+	want := "PK\x03\x04" + "\x14\x00" + "\x00\xff\xc3" + "\x03\x02\x01\x00"
+	if m.Told() != want || m.Len() != len(want) {
+		t.Errorf("%q, %d bytes, want %q", m.Told(), m.Len(), want)
+	}
+}

@@ -1,5 +1,5 @@
-// Package layout holds what the layers that read blocks of RFC 1951 and those
-// that write them must agree on.
+// Package layout holds what the layers that read blocks of RFC 1951, or ZIP
+// archives, and those that write them must agree on.
 package layout
 
 // The kinds of blocks; there is no other one.

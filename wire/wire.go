@@ -2,6 +2,8 @@
 // write them there and those that read them: numbers the lowest byte first.
 package wire
 
+import "strings"
+
 // Maker makes a text, piece by piece. Its zero value has nothing yet.
 type Maker struct {
 	text []byte
@@ -30,7 +32,7 @@ func (m *Maker) Told() string {
 	return string(m.text)
 }
 
-// Taker takes numbers off a text, from its beginning on.
+// Taker takes numbers and pieces off a text, from its beginning on.
 type Taker struct {
 	rest string
 }
@@ -44,9 +46,26 @@ func Of(s string) Taker {
 // who takes asks in the end whether the text is what would have been made.
 func (t *Taker) Number(width int) int {
 	value := 0
-	for place := range min(width, len(t.rest)) {
-		value |= int(t.rest[place]) << (8 * place)
+	for place, b := range []byte(t.piece(width)) {
+		value |= int(b) << (8 * place)
 	}
-	t.rest = t.rest[min(width, len(t.rest)):]
 	return value
+}
+
+// Text takes a piece of so many bytes, or of those that are there. It is a
+// copy: who takes may answer it.
+func (t *Taker) Text(width int) string {
+	return strings.Clone(t.piece(width))
+}
+
+// Begins tells whether what is left begins with a mark; it takes nothing.
+func (t *Taker) Begins(mark string) bool {
+	return strings.HasPrefix(t.rest, mark)
+}
+
+func (t *Taker) piece(width int) string {
+	width = min(width, len(t.rest))
+	piece := t.rest[:width]
+	t.rest = t.rest[width:]
+	return piece
 }

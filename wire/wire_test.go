@@ -73,3 +73,28 @@ func TestTextsBetweenNumbers(t *testing.T) {
 		t.Errorf("%q, %d bytes, want %q", m.Told(), m.Len(), want)
 	}
 }
+
+func TestTextsTaken(t *testing.T) {
+	taker := wire.Of("PK\x03\x04" + "\x14\x00" + "a.txt" + "\xff\x00")
+	if !taker.Begins("PK\x03\x04") || !taker.Begins("PK") || !taker.Begins("") || taker.Begins("PK\x01\x02") || taker.Begins("K") {
+		t.Error("another beginning")
+	}
+	if got := taker.Text(4); got != "PK\x03\x04" {
+		t.Errorf("%q", got)
+	}
+	if got := taker.Number(2); got != 20 {
+		t.Errorf("%d", got)
+	}
+	if got := taker.Text(0); got != "" {
+		t.Errorf("%q of no bytes", got)
+	}
+	if got := taker.Text(5); got != "a.txt" || taker.Begins("a") || !taker.Begins("\xff\x00") || taker.Begins("\xff\x00\x00") {
+		t.Errorf("%q, or another beginning behind it", got)
+	}
+	if got := taker.Text(1 << 40); got != "\xff\x00" {
+		t.Errorf("%q, want what is left", got)
+	}
+	if got := taker.Text(1); got != "" || taker.Number(2) != 0 || taker.Begins("a") || !taker.Begins("") {
+		t.Errorf("%q behind the end", got)
+	}
+}

@@ -3,20 +3,13 @@ package zipput
 import (
 	"portage/api"
 	"portage/extra"
+	"portage/layout"
 	"portage/wire"
 )
 
-// What an archive's parts begin with.
 const (
-	firstMark  = "PK\x03\x04"
-	secondMark = "PK\x01\x02"
-	endMark    = "PK\x05\x06"
-)
-
-// How many bytes the numbers of a ZIP have.
-const (
-	short = 2
-	long  = 4
+	short = layout.ShortBytes
+	long  = layout.LongBytes
 )
 
 // version, 2.0, is the first one of the format that knows of deflated bytes.
@@ -48,14 +41,14 @@ func each(entries []api.Entry, put func(place int, e api.Entry)) {
 
 func (m *maker) first(place int, e api.Entry) {
 	m.begins[place] = m.Len()
-	m.Text(firstMark)
+	m.Text(layout.FirstMark)
 	m.common(e)
 	m.called(e)
 	m.Text(e.Packed)
 }
 
 func (m *maker) second(place int, e api.Entry) {
-	m.Text(secondMark)
+	m.Text(layout.SecondMark)
 	m.Number(version, short)
 	m.common(e)
 	// No remark, the only disk, nothing of what is inside.
@@ -94,7 +87,7 @@ func (m *maker) called(e api.Entry) {
 // where their second parts begin.
 func (m *maker) end(many int, begin int) {
 	bytes := m.Len() - begin
-	m.Text(endMark)
+	m.Text(layout.EndMark)
 	// The only disk, on which the second parts begin.
 	m.Number(0, short)
 	m.Number(0, short)
